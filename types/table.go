@@ -30,35 +30,51 @@ func checkClass(l []api.Class, c int) api.Errno {
 	case parent < -1 || parent >= c:
 		return api.ErrParent
 	}
-	return checkFields(l, Fields(l, parent), l[c].Fields)
+	return checkFields(l, parent, l[c].Fields)
 }
 
 func hasName(l []api.Class, name string) bool {
 	return slices.ContainsFunc(l, func(c api.Class) bool { return c.Name == name })
 }
 
-// checkFields holds names in a map: a class that can't be may have fields without end, and all are looked at ahead of their count.
-func checkFields(l []api.Class, above, own []api.Field) api.Errno {
-	taken := map[string]int{}
-	for i, f := range above {
-		taken[f.Name] = i
-	}
+// checkFields holds own names in a map: a class that can't be may have fields without end, and all are looked at ahead of their count. Those above are few, and right already.
+func checkFields(l []api.Class, parent int, own []api.Field) api.Errno {
+	ahead := make(map[string]int, min(len(own), api.MaxFields))
 	for i, f := range own {
 		if !wire.IsName(f.Name) {
 			return api.ErrName
 		}
-		if _, twice := taken[f.Name]; twice {
+		if _, twice := ahead[f.Name]; twice || lineHas(l, parent, f.Name) {
 			return api.ErrTwice
 		}
 		if !isStored(l, f.Type) {
 			return api.ErrType
 		}
-		taken[f.Name] = len(above) + i
+		ahead[f.Name] = i
 	}
-	if len(above)+len(own) > api.MaxFields {
+	if len(own) > api.MaxFields-lineSize(l, parent) {
 		return api.ErrLong
 	}
 	return api.OK
+}
+
+// lineHas tells whether a class, or one above it, has a field of that name.
+func lineHas(l []api.Class, c int, name string) bool {
+	for k := range line(l, c) {
+		if slices.ContainsFunc(l[k].Fields, func(f api.Field) bool { return f.Name == name }) {
+			return true
+		}
+	}
+	return false
+}
+
+// lineSize is how many fields a class has in all.
+func lineSize(l []api.Class, c int) int {
+	n := 0
+	for k := range line(l, c) {
+		n += len(l[k].Fields)
+	}
+	return n
 }
 
 func isStored(l []api.Class, t api.Type) bool {
