@@ -12,6 +12,7 @@ import (
 	"proviso/flow"
 	"proviso/frames"
 	"proviso/infer"
+	"proviso/samples"
 	"proviso/step"
 	"proviso/types"
 )
@@ -72,9 +73,9 @@ func TestP8_7TheLeastOne(t *testing.T) {
 	for x, l := range taken(t, 71, 4000) {
 		least := byAddress(l)
 		other := maps.Clone(least)
-		for range 1 + d.below(4) {
-			at := l[d.below(len(l))].At
-			other[at] = above(&d, x.e.Classes, other[at])
+		for range 1 + d.Below(4) {
+			at := l[d.Below(len(l))].At
+			other[at] = samples.Above(&d, x.e.Classes, other[at])
 		}
 		if _, why := rounds(x.e, x.b, other); why != api.OK {
 			continue
@@ -164,8 +165,8 @@ func TestP8_10WhatIsNotReached(t *testing.T) {
 		p, _, _ := infer.Emit(x.e, x.locals, x.b)
 		other := bytes.Clone(x.b)
 		for i := range other {
-			if reached[i] == 0 && d.below(3) > 0 {
-				other[i] = byte(d.below(256))
+			if reached[i] == 0 && d.Below(3) > 0 {
+				other[i] = byte(d.Below(256))
 			}
 		}
 		if m, at, why := infer.Infer(x.e, x.locals, other); !slices.Equal(m, l) || at != 0 || why != api.OK {
@@ -184,10 +185,10 @@ func TestP8_11LessKnownNoMore(t *testing.T) {
 	d, came, unlike := dice(97), 0, 0
 	for x, l := range taken(t, 101, 8000) {
 		lower := x
-		lower.e = world(x.e.Fn)
+		lower.e = samples.World(x.e.Fn)
 		params := lower.e.Sigs[x.e.Fn].Params
 		for i, p := range params {
-			if q := valids(x.e.Classes)[1+d.below(9)]; types.Sub(x.e.Classes, q, p) && q != api.TNull {
+			if q := samples.Valids(x.e.Classes)[1+d.Below(9)]; types.Sub(x.e.Classes, q, p) && q != api.TNull {
 				params[i] = q
 			}
 		}

@@ -8,6 +8,7 @@ import (
 	"proviso/api"
 	"proviso/cert"
 	"proviso/infer"
+	"proviso/samples"
 )
 
 // function is code where it stands.
@@ -36,13 +37,13 @@ func someCode(seed dice, n int) []function {
 	d := seed
 	var all []function
 	for range n {
-		x := function{e: world(d.below(4)), locals: 3 + d.below(3)}
-		x.b = sound(&d, x.e, x.locals, 1+d.below(30))
-		switch d.below(5) {
+		x := function{e: samples.World(d.Below(4)), locals: 3 + d.Below(3)}
+		x.b = samples.Sound(&d, x.e, x.locals, 1+d.Below(30))
+		switch d.Below(5) {
 		case 0:
-			x.b = anything(&d, 1+d.below(20))
+			x.b = samples.Anything(&d, 1+d.Below(20))
 		case 1:
-			x.b = turned(&d, x.b)
+			x.b = samples.Turned(&d, x.b)
 		}
 		all = append(all, x)
 	}
@@ -88,7 +89,7 @@ func TestP8_2ShortCodeOfAllKinds(t *testing.T) {
 		var each func(i int)
 		each = func(i int) {
 			if i == n {
-				isInferred(t, function{one(), 1, b})
+				isInferred(t, function{samples.One(), 1, b})
 				return
 			}
 			for _, x := range ops {
@@ -145,8 +146,8 @@ func TestP8_2Faults(t *testing.T) {
 		{"no such class", []byte{api.OpNew, 0, back}, 0, api.ErrMember},
 		{"nothing is known of it", []byte{api.OpLoad, 0, trap, 0}, 0, api.ErrWant},
 	} {
-		isFault(t, x.name, function{one(), 1, x.b}, x.at, x.want)
-		if _, at, why := inferred(one(), 1, x.b); at != x.at || why != x.want {
+		isFault(t, x.name, function{samples.One(), 1, x.b}, x.at, x.want)
+		if _, at, why := inferred(samples.One(), 1, x.b); at != x.at || why != x.want {
 			t.Error("the words of the document:", x.name, at, why)
 		}
 	}
@@ -155,7 +156,7 @@ func TestP8_2Faults(t *testing.T) {
 func TestP8_2TheLeastNewAddressIsTaken(t *testing.T) {
 	// bool 1 at 0, unless 8 at 2: 5 and 8 are new, and both are at fault.
 	b := []byte{api.OpBool, 1, api.OpUnless, 0, 8, api.OpPop, api.OpNop, api.OpNop, api.OpAdd}
-	isFault(t, "two faults", function{one(), 0, b}, 5, api.ErrUnder)
+	isFault(t, "two faults", function{samples.One(), 0, b}, 5, api.ErrUnder)
 	// 17 is new from the beginning on; but the jump back at 14 makes 8 new, and that is taken first.
 	b = bytesOf(t,
 		api.Instr{Op: api.OpBool, A: 1}, api.Instr{Op: api.OpUnless, A: 17}, // 0, 2
@@ -165,29 +166,29 @@ func TestP8_2TheLeastNewAddressIsTaken(t *testing.T) {
 		api.Instr{Op: api.OpJump, A: 8}, // 14
 		api.Instr{Op: api.OpAdd},        // 17
 	)
-	isFault(t, "a jump back", function{one(), 0, b}, 8, api.ErrUnder)
+	isFault(t, "a jump back", function{samples.One(), 0, b}, 8, api.ErrUnder)
 }
 
 func TestP8_2LimitsOfCode(t *testing.T) {
 	whole := append(bytes.Repeat([]byte{api.OpNop}, api.MaxCode-1), api.OpReturn)
-	l, at, why := infer.Infer(one(), 16, whole)
+	l, at, why := infer.Infer(samples.One(), 16, whole)
 	if len(l) != api.MaxCode || at != 0 || why != api.OK || l[4095] != (api.Entry{At: 4095, Frame: api.Frame{Locals: 16}}) {
 		t.Error("MaxCode bytes", len(l), at, why)
 	}
-	if p, at, why := infer.Emit(one(), 16, whole); len(p) != cert.HeaderBytes || at != 0 || why != api.OK {
+	if p, at, why := infer.Emit(samples.One(), 16, whole); len(p) != cert.HeaderBytes || at != 0 || why != api.OK {
 		t.Error("MaxCode bytes", p, at, why)
 	}
 	long := append(bytes.Clone(whole), api.OpReturn)
-	isFault(t, "one more", function{one(), 16, long}, 0, api.ErrLong)
-	isFault(t, "a million more", function{one(), 16, make([]byte, 1<<20)}, 0, api.ErrLong)
+	isFault(t, "one more", function{samples.One(), 16, long}, 0, api.ErrLong)
+	isFault(t, "a million more", function{samples.One(), 16, make([]byte, 1<<20)}, 0, api.ErrLong)
 	isFault(t, "May's ahead", function{api.Env{}, 0, long}, 0, api.ErrFunc)
-	isFault(t, "May's ahead", function{one(), 17, long}, 0, api.ErrArg)
+	isFault(t, "May's ahead", function{samples.One(), 17, long}, 0, api.ErrArg)
 	off := bytes.Repeat([]byte{api.OpNop}, api.MaxCode)
-	isFault(t, "off the end", function{one(), 0, off}, api.MaxCode-1, api.ErrOff)
+	isFault(t, "off the end", function{samples.One(), 0, off}, api.MaxCode-1, api.ErrOff)
 }
 
 func TestP8_2FramesThatMeet(t *testing.T) {
-	e := world(0)
+	e := samples.World(0)
 	b := bytesOf(t,
 		api.Instr{Op: api.OpNew, A: 1}, api.Instr{Op: api.OpStore}, // 0, 2: a disc
 		api.Instr{Op: api.OpBool}, api.Instr{Op: api.OpUnless, A: 13}, // 4, 6: the loop's head is 4
@@ -227,7 +228,7 @@ func TestP8_2ItEndsWhereFramesSinkForLong(t *testing.T) {
 	}
 	put(api.OpReturn, 0)
 	b := bytesOf(t, l...)
-	e := api.Env{Classes: chain(deep), Sigs: []api.Sig{{}}}
+	e := api.Env{Classes: samples.Chain(deep), Sigs: []api.Sig{{}}}
 	got, place, why := infer.Infer(e, locals, b)
 	if why != api.OK || place != 0 || len(got) != len(l) || got[len(got)-1].Frame != of(locals, shape, shape, shape, shape) {
 		t.Error(len(got), place, why)
@@ -244,13 +245,13 @@ func TestP8_3Emit(t *testing.T) {
 		api.Instr{Op: api.OpNop},         // 12: nor there
 		api.Instr{Op: api.OpReturn},      // 13: nor there
 	)
-	p, at, why := infer.Emit(one(), 2, b)
+	p, at, why := infer.Emit(samples.One(), 2, b)
 	c, _, bad := cert.Decode(p)
 	want := []api.Entry{{At: 6, Frame: of(2, 0, 0)}, {At: 9, Dead: true}, {At: 10, Frame: of(2, 0, 0)}, {At: 12, Dead: true}}
 	if at != 0 || why != api.OK || bad != api.OK || c.Locals != 2 || !slices.Equal(c.Entries, want) {
 		t.Error(c, at, why, bad)
 	}
-	if p, _, why := infer.Emit(one(), 0, bytesOf(t, api.Instr{Op: api.OpNop}, api.Instr{Op: api.OpTrap})); why != api.OK || len(p) != cert.HeaderBytes {
+	if p, _, why := infer.Emit(samples.One(), 0, bytesOf(t, api.Instr{Op: api.OpNop}, api.Instr{Op: api.OpTrap})); why != api.OK || len(p) != cert.HeaderBytes {
 		t.Error("nothing stands behind the last one", p, why)
 	}
 }
@@ -265,13 +266,13 @@ func TestP8_3ManyEntries(t *testing.T) {
 	if len(b) != api.MaxCode {
 		t.Fatal(len(b))
 	}
-	p, at, why := infer.Emit(one(), 16, b)
+	p, at, why := infer.Emit(samples.One(), 16, b)
 	c, _, bad := cert.Decode(p)
 	if at != 0 || why != api.OK || bad != api.OK || len(c.Entries) != api.MaxCode/3 || len(p) != cert.HeaderBytes+(4+16)*(api.MaxCode/3) {
 		t.Error(len(p), len(c.Entries), at, why, bad)
 	}
 	dead := append(bytes.Repeat([]byte{api.OpReturn}, api.MaxCode-1), 255)
-	if p, _, why := infer.Emit(one(), 0, dead); why != api.OK || !bytes.Equal(p[6:], []byte{0, 1, 0}) {
+	if p, _, why := infer.Emit(samples.One(), 0, dead); why != api.OK || !bytes.Equal(p[6:], []byte{0, 1, 0}) {
 		t.Error(p, why)
 	}
 }
@@ -286,11 +287,11 @@ func TestExamplesOfChapter8(t *testing.T) {
 		{[]byte{2, 1, 20, 0, 8, 19, 0, 8, 22}, []api.Entry{{At: 0, Frame: of(1, 0)}, {At: 2, Frame: of(1, 0, api.TBool)}, {At: 5, Frame: of(1, 0)}, {At: 8, Frame: of(1, 0)}}, []byte{0x70, 0x76, 1, 1, 0, 1, 0, 8, 1, 0, 0}},
 		{[]byte{19, 0, 4, 200, 22}, []api.Entry{{At: 0, Frame: of(1, 0)}, {At: 4, Frame: of(1, 0)}}, []byte{0x70, 0x76, 1, 1, 0, 2, 0, 3, 0, 0, 4, 1, 0, 0}},
 	} {
-		l, at, why := infer.Infer(one(), 1, x.b)
+		l, at, why := infer.Infer(samples.One(), 1, x.b)
 		if !slices.Equal(l, x.want) || at != 0 || why != api.OK {
 			t.Error(i, l, at, why)
 		}
-		if p, at, why := infer.Emit(one(), 1, x.b); !bytes.Equal(p, x.p) || at != 0 || why != api.OK {
+		if p, at, why := infer.Emit(samples.One(), 1, x.b); !bytes.Equal(p, x.p) || at != 0 || why != api.OK {
 			t.Error(i, p, at, why)
 		}
 	}
@@ -306,9 +307,9 @@ func TestExamplesOfChapter8(t *testing.T) {
 		{[]byte{19, 0, 9}, 0, api.ErrTarget},
 		{[]byte{9}, 0, api.ErrUnder},
 	} {
-		isFault(t, "example 4", function{one(), 1, x.b}, x.at, x.want)
+		isFault(t, "example 4", function{samples.One(), 1, x.b}, x.at, x.want)
 	}
-	l, _, why := infer.Infer(one(), 1, []byte{2, 1, 20, 0, 14, 1, 0, 0, 0, 1, 5, 0, 0, 0, 22})
+	l, _, why := infer.Infer(samples.One(), 1, []byte{2, 1, 20, 0, 14, 1, 0, 0, 0, 1, 5, 0, 0, 0, 22})
 	if why != api.OK || len(l) == 0 || l[len(l)-1] != (api.Entry{At: 14, Frame: of(1, api.TTop)}) {
 		t.Error(l, why)
 	}

@@ -10,6 +10,7 @@ import (
 
 	"proviso/api"
 	"proviso/infer"
+	"proviso/samples"
 )
 
 func TestP8_1May(t *testing.T) {
@@ -21,10 +22,10 @@ func TestP8_1May(t *testing.T) {
 		locals int
 		want   api.Errno
 	}{
-		{"one function", one(), 0, api.OK},
-		{"MaxLocals", one(), 16, api.OK},
-		{"one more", one(), 17, api.ErrArg},
-		{"below 0", one(), -1, api.ErrArg},
+		{"one function", samples.One(), 0, api.OK},
+		{"MaxLocals", samples.One(), 16, api.OK},
+		{"one more", samples.One(), 17, api.ErrArg},
+		{"below 0", samples.One(), -1, api.ErrArg},
 		{"no functions", api.Env{}, 0, api.ErrFunc},
 		{"MaxFuncs", api.Env{Sigs: make([]api.Sig, 64), Fn: 63}, 0, api.OK},
 		{"one more", api.Env{Sigs: make([]api.Sig, 65), Fn: 63}, 0, api.ErrLong},
@@ -38,8 +39,8 @@ func TestP8_1May(t *testing.T) {
 		{"types.Check's error", api.Env{Classes: []api.Class{{Name: "a", Parent: -1}, {Name: "a", Parent: -1}}, Sigs: []api.Sig{{}}}, 0, api.ErrTwice},
 		{"a parent", api.Env{Classes: []api.Class{{Name: "a"}}, Sigs: []api.Sig{{}}}, 0, api.ErrParent},
 		{"a name", api.Env{Classes: []api.Class{{Parent: -1}}, Sigs: []api.Sig{{}}}, 0, api.ErrName},
-		{"MaxClasses", api.Env{Classes: chain(32), Sigs: []api.Sig{sig(api.TClass + 31)}}, 0, api.OK},
-		{"one more", api.Env{Classes: chain(33), Sigs: []api.Sig{{}}}, 0, api.ErrLong},
+		{"MaxClasses", api.Env{Classes: samples.Chain(32), Sigs: []api.Sig{sig(api.TClass + 31)}}, 0, api.OK},
+		{"one more", api.Env{Classes: samples.Chain(33), Sigs: []api.Sig{{}}}, 0, api.ErrLong},
 		{"classes ahead of all", api.Env{Classes: []api.Class{{}}, Sigs: make([]api.Sig, 65), Fn: -1}, -1, api.ErrName},
 		{"functions ahead of types", api.Env{Sigs: slices.Repeat([]api.Sig{sig(99, 99)}, 65), Fn: -1}, -1, api.ErrLong},
 		{"the first one's type ahead of the second one's length", api.Env{Sigs: []api.Sig{sig(99), {Params: nine}}}, 0, api.ErrType},
@@ -62,7 +63,7 @@ func TestP8_1May(t *testing.T) {
 }
 
 func TestP8_1EveryType(t *testing.T) {
-	for _, classes := range [][]api.Class{nil, shapes(), chain(32)} {
+	for _, classes := range [][]api.Class{nil, samples.Shapes(), samples.Chain(32)} {
 		for c := range 256 {
 			code := api.Type(c)
 			for _, e := range []api.Env{{Sigs: []api.Sig{{Params: []api.Type{code}}}}, {Sigs: []api.Sig{{Result: code}}}, {Sigs: []api.Sig{{}, {Params: []api.Type{api.TInt, code}}}}} {
@@ -78,7 +79,7 @@ func TestP8_1EveryType(t *testing.T) {
 func TestP8_1AllLocals(t *testing.T) {
 	for n := range 9 {
 		e := api.Env{Sigs: []api.Sig{{}, {Params: slices.Repeat([]api.Type{api.TBool}, n)}}, Fn: 1}
-		for _, locals := range append(huge(), 4, 5, 6, 7, 8, 9) {
+		for _, locals := range append(samples.Numbers(), 4, 5, 6, 7, 8, 9) {
 			want := api.ErrArg
 			if locals >= n && locals <= 16 {
 				want = api.OK
@@ -94,7 +95,7 @@ func TestP8_1AllLocals(t *testing.T) {
 func whole() api.Module {
 	return api.Module{
 		Name:    "m",
-		Classes: shapes(),
+		Classes: samples.Shapes(),
 		Funcs: []api.Func{
 			{Name: "f", Sig: api.Sig{Params: []api.Type{disc, api.TInt}, Result: api.TInt}, Locals: 3, Code: []byte{api.OpLoad, 1, api.OpReturn}},
 			{Name: "g", Locals: 1, Code: []byte{api.OpBool, 1, api.OpUnless, 0, 0, api.OpReturn, 99}},
@@ -107,7 +108,7 @@ func whole() api.Module {
 func TestP8_4Env(t *testing.T) {
 	m := whole()
 	for fn := range 3 {
-		want := api.Env{Classes: shapes(), Sigs: []api.Sig{{Params: []api.Type{disc, api.TInt}, Result: api.TInt}, {}, {Params: []api.Type{box}}}, Fn: fn}
+		want := api.Env{Classes: samples.Shapes(), Sigs: []api.Sig{{Params: []api.Type{disc, api.TInt}, Result: api.TInt}, {}, {Params: []api.Type{box}}}, Fn: fn}
 		if e, is := infer.Env(m, fn); !is || !reflect.DeepEqual(e, want) {
 			t.Error(fn, e, is)
 		}
@@ -117,7 +118,7 @@ func TestP8_4Env(t *testing.T) {
 			t.Error(fn, e, is)
 		}
 	}
-	if e, is := infer.Env(api.Module{Classes: shapes()}, 0); is || !reflect.DeepEqual(e, api.Env{}) {
+	if e, is := infer.Env(api.Module{Classes: samples.Shapes()}, 0); is || !reflect.DeepEqual(e, api.Env{}) {
 		t.Error("no functions", e, is)
 	}
 	many := api.Module{Classes: []api.Class{{Name: "?"}}, Funcs: make([]api.Func, 70)}
@@ -291,8 +292,8 @@ func spoil[T any](l []T, with T) {
 
 func TestRoomBehindTheEndIsNotRead(t *testing.T) {
 	b := []byte{api.OpNop, api.OpNop, api.OpReturn, api.OpInt, 0, 0, 0, 1}
-	isFault(t, "the return lies behind", function{one(), 0, b[:2]}, 1, api.ErrOff)
-	isFault(t, "the operand lies behind", function{one(), 0, append([]byte{api.OpJump, 0, 3}, b[3:]...)[:6]}, 3, api.ErrShort)
+	isFault(t, "the return lies behind", function{samples.One(), 0, b[:2]}, 1, api.ErrOff)
+	isFault(t, "the operand lies behind", function{samples.One(), 0, append([]byte{api.OpJump, 0, 3}, b[3:]...)[:6]}, 3, api.ErrShort)
 	m := whole()
 	cut := m
 	cut.Funcs = m.Funcs[:1]
@@ -306,30 +307,30 @@ func TestRoomBehindTheEndIsNotRead(t *testing.T) {
 
 func TestAllEndsOfAllArguments(t *testing.T) {
 	d := dice(103)
-	number := func() int { return huge()[d.below(len(huge()))] }
+	number := func() int { return samples.Numbers()[d.Below(len(samples.Numbers()))] }
 	for range 4000 {
-		e := world(d.below(4))
-		switch d.below(6) {
+		e := samples.World(d.Below(4))
+		switch d.Below(6) {
 		case 0:
 			e.Fn = number()
 		case 1:
-			e.Sigs[d.below(4)].Params = slices.Repeat([]api.Type{api.Type(d.below(256))}, d.below(20))
+			e.Sigs[d.Below(4)].Params = slices.Repeat([]api.Type{api.Type(d.Below(256))}, d.Below(20))
 		case 2:
-			e.Sigs[d.below(4)].Result = api.Type(d.below(256))
+			e.Sigs[d.Below(4)].Result = api.Type(d.Below(256))
 		case 3:
-			e.Classes[d.below(4)].Parent = number()
+			e.Classes[d.Below(4)].Parent = number()
 		case 4:
-			e.Sigs = make([]api.Sig, d.below(100))
+			e.Sigs = make([]api.Sig, d.Below(100))
 		}
 		locals := number()
-		if d.below(2) == 0 {
-			locals = d.below(17)
+		if d.Below(2) == 0 {
+			locals = d.Below(17)
 		}
-		b := make([]byte, d.below(60))
+		b := make([]byte, d.Below(60))
 		for i := range b {
-			b[i] = byte(d.below(256))
-			if d.below(3) > 0 {
-				b[i] = byte(d.below(34))
+			b[i] = byte(d.Below(256))
+			if d.Below(3) > 0 {
+				b[i] = byte(d.Below(34))
 			}
 		}
 		if why := infer.May(e, locals); why != may(e, locals) {

@@ -7,6 +7,7 @@ import (
 	"proviso/cert"
 	"proviso/code"
 	"proviso/frames"
+	"proviso/samples"
 	"proviso/step"
 	"proviso/types"
 )
@@ -19,7 +20,7 @@ func may(e api.Env, locals int) api.Errno {
 	if len(e.Sigs) > 64 {
 		return api.ErrLong
 	}
-	stored := slices.DeleteFunc(valids(e.Classes), func(t api.Type) bool { return t == api.TTop || t == api.TNull })
+	stored := slices.DeleteFunc(samples.Valids(e.Classes), func(t api.Type) bool { return t == api.TTop || t == api.TNull })
 	for _, s := range e.Sigs {
 		if len(s.Params) > 8 {
 			return api.ErrLong

@@ -1,0 +1,59 @@
+package samples_test
+
+import (
+	"bytes"
+	"slices"
+	"testing"
+
+	"proviso/api"
+	"proviso/frames"
+	"proviso/infer"
+	"proviso/samples"
+	"proviso/types"
+)
+
+func TestTheSameAtEveryRun(t *testing.T) {
+	a, b := samples.Dice(5), samples.Dice(5)
+	for range 100 {
+		x := samples.Sound(&a, samples.World(1), 3, 9)
+		y := samples.Sound(&b, samples.World(1), 3, 9)
+		if !bytes.Equal(x, y) || !bytes.Equal(samples.Turned(&a, x), samples.Turned(&b, y)) || !bytes.Equal(samples.Anything(&a, 9), samples.Anything(&b, 9)) {
+			t.Fatal(x, y)
+		}
+	}
+}
+
+func TestTheyCanBe(t *testing.T) {
+	d := samples.Dice(7)
+	for fn, s := range samples.World(0).Sigs {
+		e := samples.World(fn)
+		if why := infer.May(e, len(s.Params)); why != api.OK {
+			t.Error(fn, why)
+		}
+		f, _ := frames.Start(e.Classes, s.Params, 5)
+		if !frames.Sub(e.Classes, f, samples.Above(&d, e.Classes, f)) {
+			t.Error(fn, f)
+		}
+	}
+	for c := range 256 {
+		if l := samples.Shapes(); types.Valid(l, api.Type(c)) != slices.Contains(samples.Valids(l), api.Type(c)) {
+			t.Error(c)
+		}
+	}
+	if _, why := types.Check(samples.Chain(api.MaxClasses)); why != api.OK || infer.May(samples.One(), 0) != api.OK {
+		t.Error(why)
+	}
+}
+
+func TestSoundCodeIsTakenMoreOftenThanNot(t *testing.T) {
+	d, came := samples.Dice(11), 0
+	for i := range 400 {
+		e := samples.World(i % 4)
+		if _, _, why := infer.Infer(e, 4, samples.Sound(&d, e, 4, 1+i%30)); why == api.OK {
+			came++
+		}
+	}
+	if came < 200 {
+		t.Error(came)
+	}
+}
