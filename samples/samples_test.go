@@ -6,8 +6,10 @@ import (
 	"testing"
 
 	"proviso/api"
+	"proviso/check"
 	"proviso/frames"
 	"proviso/infer"
+	"proviso/parse"
 	"proviso/samples"
 	"proviso/types"
 )
@@ -19,6 +21,9 @@ func TestTheSameAtEveryRun(t *testing.T) {
 		y := samples.Sound(&b, samples.World(1), 3, 9)
 		if !bytes.Equal(x, y) || !bytes.Equal(samples.Turned(&a, x), samples.Turned(&b, y)) || !bytes.Equal(samples.Anything(&a, 9), samples.Anything(&b, 9)) {
 			t.Fatal(x, y)
+		}
+		if p, q := samples.Source(&a, 5), samples.Source(&b, 5); p != q {
+			t.Fatal(p, q)
 		}
 	}
 }
@@ -55,5 +60,19 @@ func TestSoundCodeIsTakenMoreOftenThanNot(t *testing.T) {
 	}
 	if came < 200 {
 		t.Error(came)
+	}
+}
+
+func TestSourcesAreTaken(t *testing.T) {
+	d := samples.Dice(13)
+	for i := range 1000 {
+		text := samples.Source(&d, 1+i%9)
+		p, err := parse.Parse(text)
+		if err != nil {
+			t.Fatal(text, err)
+		}
+		if _, err := check.Check(p); err != nil {
+			t.Fatal(text, err)
+		}
 	}
 }
