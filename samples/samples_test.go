@@ -76,3 +76,25 @@ func TestSourcesAreTaken(t *testing.T) {
 		}
 	}
 }
+
+func TestPartsAreAllThatIsThere(t *testing.T) {
+	p, err := parse.Parse("fun f() { if true { tell 1 + 2; } else { while false { break; } } } fun g() { g(); }")
+	if err != nil {
+		t.Fatal(err)
+	}
+	stmts, exprs := samples.Parts(&p)
+	var ops, kinds []int
+	for _, s := range stmts {
+		ops = append(ops, s.Op)
+	}
+	for _, e := range exprs {
+		kinds = append(kinds, e.Op)
+		e.Num = 7
+	}
+	if !slices.Equal(ops, []int{api.StIf, api.StTell, api.StWhile, api.StBreak, api.StCall}) || !slices.Equal(kinds, []int{api.ExBool, api.ExAdd, api.ExInt, api.ExInt, api.ExBool, api.ExCall}) {
+		t.Error(ops, kinds)
+	}
+	if p.Funs[0].Body[0].Body[0].Exprs[0].Kids[1].Num != 7 {
+		t.Error("another one's part was changed")
+	}
+}
