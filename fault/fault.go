@@ -1,4 +1,4 @@
-// Package fault is how a reader of texts or trees gives up deep within, and is caught at its face. It is no layer; those from 11 on call it.
+// Package fault is how a reader of texts, trees or files gives up deep within, and is caught at its face. It is no layer; those from 11 on call it.
 package fault
 
 import (

@@ -79,38 +79,6 @@ func TestP13_4Whole(t *testing.T) {
 	}
 }
 
-// others are programs that are Same as p: with other places, with what check puts in or without, with empty lists for nil ones, read from the one form.
-func others(t *testing.T, d *dice, p api.Program) []api.Program {
-	q, err := check.Check(p)
-	if err != nil {
-		t.Fatal(err)
-	}
-	moved := parsed(t, parse.Print(p))
-	for i := range moved.Records {
-		moved.Records[i].At = d.Below(99)
-		moved.Records[i].Fields = append([]api.Param{}, moved.Records[i].Fields...)
-	}
-	for i := range moved.Funs {
-		moved.Funs[i].At = d.Below(99)
-		moved.Funs[i].Body = append([]api.Stmt{}, moved.Funs[i].Body...)
-		moved.Funs[i].Params = append([]api.Param{}, moved.Funs[i].Params...)
-	}
-	stmts, exprs := samples.Parts(&moved)
-	for _, s := range stmts {
-		s.At = d.Below(99)
-		if len(s.Else) == 0 {
-			s.Else = []api.Stmt{}
-		}
-	}
-	for _, e := range exprs {
-		e.At = d.Below(99)
-		if len(e.Kids) == 0 {
-			e.Kids = []api.Expr{}
-		}
-	}
-	return []api.Program{q, parsed(t, parse.Print(p)), moved}
-}
-
 func TestP13_5OneWay(t *testing.T) {
 	d := dice(6)
 	for i := range 1500 {
@@ -120,7 +88,7 @@ func TestP13_5OneWay(t *testing.T) {
 		if err != nil {
 			t.Fatal(err)
 		}
-		for n, q := range others(t, &d, p) {
+		for n, q := range samples.Alike(&d, p) {
 			if m, err := gen.Gen("m", q); !parse.Same(p, q) || err != nil || show(m) != show(want) {
 				t.Fatal(n, src, m, err)
 			}
@@ -169,14 +137,6 @@ func TestNothingHandedInIsChanged(t *testing.T) {
 	}
 }
 
-// spoil writes over all of a list, its spare room too.
-func spoil[T any](l []T, with T) {
-	l = l[:cap(l)]
-	for i := range l {
-		l[i] = with
-	}
-}
-
 func TestAnswersAreNewMemory(t *testing.T) {
 	d := dice(9)
 	for range 300 {
@@ -187,19 +147,19 @@ func TestAnswersAreNewMemory(t *testing.T) {
 		want := show(n)
 		// Each list is spoilt and then put right by another answer's: so what is still wrong has shared its memory.
 		for i := range m.Classes {
-			spoil(m.Classes[i].Fields, api.Field{Name: "spoilt"})
+			samples.Overwrite(m.Classes[i].Fields, api.Field{Name: "spoilt"})
 			m.Classes[i].Fields = n.Classes[i].Fields
 		}
 		for i := range m.Funcs {
-			spoil(m.Funcs[i].Code, 77)
-			spoil(m.Funcs[i].Sig.Params, 77)
+			samples.Overwrite(m.Funcs[i].Code, 77)
+			samples.Overwrite(m.Funcs[i].Sig.Params, 77)
 			m.Funcs[i].Code, m.Funcs[i].Sig.Params = n.Funcs[i].Code, n.Funcs[i].Sig.Params
 			if show(m) != want {
 				t.Fatal("shared within an answer", show(m), want)
 			}
 		}
-		spoil(m.Classes, api.Class{Name: "spoilt"})
-		spoil(m.Funcs, api.Func{Name: "spoilt"})
+		samples.Overwrite(m.Classes, api.Class{Name: "spoilt"})
+		samples.Overwrite(m.Funcs, api.Func{Name: "spoilt"})
 		if fmt.Sprintf("%+v", q) != before || show(n) != want {
 			t.Fatal("shared", before)
 		}
@@ -226,47 +186,6 @@ func TestRoomBehindTheEndIsNeitherReadNorWritten(t *testing.T) {
 	}
 }
 
-// spoiltTree has something changed, whatever it may be then.
-func spoiltTree(d *dice, p *api.Program) {
-	stmts, exprs := samples.Parts(p)
-	number := pick(d, append(samples.Numbers(), d.Below(30), d.Below(30)))
-	name := pick(d, []string{"", "v0", "p0", "int", "f0", " ", strings.Repeat("n", 99)})
-	if len(stmts) == 0 || len(exprs) == 0 {
-		p.Funs = append(p.Funs, api.Fun{Name: name, Of: name, Body: make([]api.Stmt, d.Below(3))})
-		return
-	}
-	s, e := pick(d, stmts), pick(d, exprs)
-	switch d.Below(14) {
-	case 0:
-		s.Op = d.Below(13) - 1
-	case 1:
-		s.Exprs = append(s.Exprs, api.Expr{Op: e.Op, Name: e.Name})
-	case 2:
-		s.Exprs = nil
-	case 3:
-		s.Num = number
-	case 4:
-		s.Body, s.Else = s.Else, s.Body
-	case 5:
-		s.Name = name
-	case 6, 7:
-		e.Op = d.Below(30) - 1
-	case 8:
-		e.Kids = append(e.Kids, api.Expr{Op: d.Below(30), Name: name})
-	case 9:
-		e.Kids = nil
-	case 10:
-		e.Num = number
-	case 11:
-		e.Name, e.Ref, e.Class, e.Type = name, number, number, api.Type(d.Below(256))
-	case 12:
-		f := &p.Funs[d.Below(len(p.Funs))]
-		f.At, f.Name, f.Locals, f.Result = number, name, number, api.Type(d.Below(256))
-	case 13:
-		p.Records = append(p.Records, api.Record{At: number, Name: name, Fields: []api.Param{{Name: name, Of: name}}})
-	}
-}
-
 func TestAllEndsOfAllArguments(t *testing.T) {
 	d, came := dice(10), 0
 	for i := range 8000 {
@@ -275,7 +194,7 @@ func TestAllEndsOfAllArguments(t *testing.T) {
 			p, _ = check.Check(p)
 		}
 		for range 1 + d.Below(3) {
-			spoiltTree(&d, &p)
+			samples.Spoil(&d, &p)
 		}
 		m, err := gen.Gen("m", p)
 		if faultOf(t, m, err) == (api.Fault{}) {

@@ -89,3 +89,11 @@ func World(fn int) api.Env {
 func Numbers() []int {
 	return []int{math.MinInt, math.MinInt + 1, math.MinInt32, -65536, -2, -1, 0, 1, 2, 3, 15, 16, 17, 63, 64, 65, 4095, 4096, 4097, 65536, math.MaxInt32, 1 << 32, math.MaxInt - 1, math.MaxInt}
 }
+
+// Overwrite writes over all of a list, its spare room too: whoever shares its memory is changed by it.
+func Overwrite[T any](l []T, with T) {
+	l = l[:cap(l)]
+	for i := range l {
+		l[i] = with
+	}
+}

@@ -98,3 +98,27 @@ func TestPartsAreAllThatIsThere(t *testing.T) {
 		t.Error("another one's part was changed")
 	}
 }
+
+func TestProgramsThatAreAlike(t *testing.T) {
+	d := samples.Dice(17)
+	for range 300 {
+		p, _ := parse.Parse(samples.Source(&d, 5))
+		l := samples.Alike(&d, p)
+		for i, q := range l {
+			if !parse.Same(p, q) {
+				t.Fatal(i, parse.Print(p))
+			}
+		}
+		samples.Spoil(&d, &l[1])
+		if !parse.Same(p, l[0]) || !parse.Same(p, l[2]) {
+			t.Fatal("they share memory")
+		}
+	}
+}
+
+func TestOverwriteGoesBehindTheEnd(t *testing.T) {
+	l := []int{1, 2, 3}
+	if samples.Overwrite(l[:1], 7); !slices.Equal(l, []int{7, 7, 7}) {
+		t.Error(l)
+	}
+}
