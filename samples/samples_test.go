@@ -9,6 +9,7 @@ import (
 	"proviso/check"
 	"proviso/frames"
 	"proviso/infer"
+	"proviso/module"
 	"proviso/parse"
 	"proviso/samples"
 	"proviso/types"
@@ -112,6 +113,45 @@ func TestProgramsThatAreAlike(t *testing.T) {
 		samples.Spoil(&d, &l[1])
 		if !parse.Same(p, l[0]) || !parse.Same(p, l[2]) {
 			t.Fatal("they share memory")
+		}
+	}
+}
+
+func TestModulesAreTaken(t *testing.T) {
+	d, outside := samples.Dice(19), 0
+	for range 300 {
+		m := samples.Module(&d, 1+d.Below(6))
+		if _, why := module.Check(m); why != api.OK || len(m.Certs) != len(m.Funcs) {
+			t.Fatal(m, why)
+		}
+		for i, f := range m.Funcs {
+			e, _ := infer.Env(m, i)
+			if p, _, why := infer.Emit(e, f.Locals, f.Code); why != api.OK || !bytes.Equal(p, m.Certs[i]) {
+				t.Fatal(m, why)
+			}
+			if !slices.ContainsFunc(f.Sig.Params, types.IsRef) {
+				outside++
+			} else if i == 0 {
+				t.Fatal("the first one takes a reference", m)
+			}
+		}
+	}
+	if outside < 400 {
+		t.Error(outside)
+	}
+}
+
+func TestAssembled(t *testing.T) {
+	b, is := samples.Assembled(" int -2; get 1 2 ;; jump 300; nop;")
+	if !is || !bytes.Equal(b, []byte{1, 255, 255, 255, 254, 24, 1, 2, 19, 1, 44, 0}) {
+		t.Error(b, is)
+	}
+	if b, is := samples.Assembled(""); !is || len(b) > 0 {
+		t.Error(b, is)
+	}
+	for _, text := range []string{"int x", "jmp 1", "get 1 2 3", "bool 2", "nop 1"} {
+		if b, is := samples.Assembled(text); is {
+			t.Error(text, b)
 		}
 	}
 }
