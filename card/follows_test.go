@@ -9,77 +9,18 @@ import (
 
 	"proviso/api"
 	"proviso/card"
-	"proviso/gen"
-	"proviso/infer"
 	"proviso/machine"
 	"proviso/module"
 	"proviso/samples"
 	"proviso/store"
 )
 
-// hostile is a module with something of its code or of its certificates turned.
-func hostile(d *dice, m api.Module) api.Module {
-	m.Funcs, m.Certs = slices.Clone(m.Funcs), slices.Clone(m.Certs)
-	fn := d.Below(len(m.Funcs))
-	f := &m.Funcs[fn]
-	switch d.Below(12) {
-	case 0:
-		m.Certs[fn] = samples.Turned(d, m.Certs[fn])
-	case 1:
-		f.Locals = d.Below(17)
-	case 2:
-		f.Sig.Result = api.Type(d.Below(21))
-	case 3:
-		m.Certs[fn] = m.Certs[d.Below(len(m.Certs))]
-	case 4:
-		f.Code = samples.Anything(d, 1+d.Below(20))
-	case 5, 6:
-		f.Code = bytes.Clone(f.Code)
-		f.Code[d.Below(len(f.Code))]++
-	default:
-		f.Code = samples.Turned(d, f.Code)
-	}
-	return m
-}
-
-// someFile is a file of a module that was compiled, or made as the dice fall; turned more often than not.
-func someFile(t *testing.T, d *dice) []byte {
-	t.Helper()
-	m := samples.Module(d, 1+d.Below(4))
-	if d.Below(3) == 0 {
-		if c, err := gen.Compile("m", samples.Source(d, 6)); err == nil && len(c.Funcs) > 0 {
-			m, _, _, _ = infer.Module(c)
-		}
-	}
-	for range d.Below(3) {
-		m = hostile(d, m)
-	}
-	b, _ := module.Encode(m)
-	return b
-}
-
-// someArgs are such as a function takes from outside, if there are any.
-func someArgs(d *dice, s api.Sig) []int {
-	var l []int
-	for _, p := range s.Params {
-		switch p {
-		case api.TInt:
-			l = append(l, pick(d, []int{0, 1, -1, 3, math.MaxInt32, math.MinInt32}))
-		case api.TBool:
-			l = append(l, d.Below(2))
-		default:
-			l = append(l, 0)
-		}
-	}
-	return l
-}
-
 func TestP22_7NothingIsStuck(t *testing.T) {
 	d := dice(1)
 	taken, refused := 0, 0
 	came := map[api.Errno]int{}
 	for range 6000 {
-		file := someFile(t, &d)
+		file := samples.File(&d)
 		c := made(t, 32768)
 		name, _, why := c.Install(file)
 		if why != api.OK {
@@ -90,7 +31,7 @@ func TestP22_7NothingIsStuck(t *testing.T) {
 		c.Select(name)
 		m, _, _ := module.Decode(file)
 		for fn, f := range m.Funcs {
-			args, fuel, room := someArgs(&d, f.Sig), d.Below(3000), d.Below(200)
+			args, fuel, room := samples.Args(&d, f.Sig), d.Below(3000), d.Below(200)
 			o, why := c.Run(f.Name, args, fuel, room)
 			if want := machine.Guarded(m, fn, args, fuel, room); why != api.OK || o.Err == api.ErrStuck || show(o) != show(want) {
 				t.Fatalf("%+v, %v; wanted %+v", o, why, want)

@@ -26,6 +26,9 @@ func TestTheSameAtEveryRun(t *testing.T) {
 		if p, q := samples.Source(&a, 5), samples.Source(&b, 5); p != q {
 			t.Fatal(p, q)
 		}
+		if p, q := samples.File(&a), samples.File(&b); !bytes.Equal(p, q) {
+			t.Fatal(p, q)
+		}
 	}
 }
 
